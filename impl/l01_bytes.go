@@ -67,8 +67,7 @@ func Token(s string) bool {
 }
 
 func tokenByte(b byte) bool {
-	small := smallByte(b)
-	if small >= 'a' && small <= 'z' || digitByte(b) {
+	if letterByte(b) || digitByte(b) {
 		return true
 	}
 	for i := range len(tokenSigns) {
@@ -77,6 +76,11 @@ func tokenByte(b byte) bool {
 		}
 	}
 	return false
+}
+
+func letterByte(b byte) bool {
+	small := smallByte(b)
+	return small >= 'a' && small <= 'z'
 }
 
 func digitByte(b byte) bool {
