@@ -612,14 +612,14 @@ func eachPart(l []impl.Line, f func([]impl.Line)) {
 	}
 }
 
-// eachRow calls f with every row of at most most lines of l, in any order, each as often as one likes.
-func eachRow(l []impl.Line, most int, f func([]impl.Line)) {
+// eachRow calls f with every row of at most most elements of l, in any order, each as often as one likes.
+func eachRow[E any](l []E, most int, f func([]E)) {
 	f(nil)
 	if most == 0 {
 		return
 	}
 	for _, x := range l {
-		eachRow(l, most-1, func(rest []impl.Line) { f(append([]impl.Line{x}, rest...)) })
+		eachRow(l, most-1, func(rest []E) { f(append([]E{x}, rest...)) })
 	}
 }
 
